@@ -32,7 +32,7 @@ produce:
 	for {
 		switch m {
 		case 0:
-			// Not before: a leading zero would be a second encoding of the same integer.
+			// One digit more would be a leading zero, and so a second encoding of the same integer.
 			break produce
 		default:
 			first--
