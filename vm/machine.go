@@ -5,6 +5,9 @@ import "scoria/api"
 // none stands in the place of the index of a frame that has a handler.
 const none = -1
 
+// maxWords is the greatest number of the words of a frame of valid code. Code that is not valid gets no more either, nor more channels than valid code: it could want more memory than there is, which nothing recovers.
+const maxWords = 24
+
 // exception is a code that is thrown.
 type exception int
 
@@ -49,7 +52,7 @@ func (m *machine) start(f int, args []int) {
 
 // call returns the frame for a call of a function. It keeps a copy of the arguments.
 func (m *machine) call(f int, args []int) api.Frame {
-	words := make([]int, m.code.Funs[f].Words)
+	words := make([]int, min(m.code.Funs[f].Words, maxWords))
 	copy(words, args)
 	return api.Frame{Fun: f, Words: words}
 }
