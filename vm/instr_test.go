@@ -44,6 +44,7 @@ func TestInstructions(t *testing.T) {
 		{name: "ITry", funs: []string{tries}, state: "5: 0@5 [0 0 0] [4 5 0] {9 2 1} {7 1 2}"},
 		{name: "IDone", funs: []string{tries}, turns: turns(1), state: "10: 0@10 [0 0 0] [4 0]", events: "0 out 0"},
 		{name: "IDone of the inner one", funs: []string{"0 2: try 8 0, try 9 1, done, push 1, out, done, push 0, return, jump 6, done, jump 6"}, state: "4: 0@4 [0 0] [1] {8 0 0}"},
+		{name: "24 words", funs: []string{"0 24: push 5, store 23, call 1 0, return", "0 24: push 6, store 23, load 23, out, push 0, return"}, state: fmt.Sprintf("6: 0@3 [%s5] [] > 1@3 [%s6] [6]", strings.Repeat("0 ", 23), strings.Repeat("0 ", 23))},
 		{name: "IOut", funs: one("push 1, push 2, out, push 3, out, return"), turns: turns(1), state: "4: 0@4 [] [1 3]", events: "0 out 2"},
 		{name: "IOut twice", funs: one("push 1, push -8, out, push 7, out, return"), turns: turns(2), state: "5: 0@5 [] [1]", events: "0 out -8, 0 out 7"},
 		{name: "IDrop", funs: one("push 1, push 2, drop, out, push 0, return"), state: "3: 0@3 [] [1]"},
